@@ -28,17 +28,7 @@ type group struct {
 
 // ValidHomes reports whether numbers are homes: few enough, on the line, and in order.
 func ValidHomes(list []int) bool {
-	if len(list) > MaxHomes {
-		return false
-	}
-	ahead := 0
-	for _, home := range list {
-		if home < ahead || home > MaxPlace {
-			return false
-		}
-		ahead = home
-	}
-	return true
+	return len(list) <= MaxHomes && inOrderUpTo(list, MaxPlace)
 }
 
 // LeastSum returns the least sum of how far the nearest helper is, found by groups; -1 for invalid arguments.
@@ -128,6 +118,18 @@ func validHelpers(k int) bool {
 // validFar reports whether a helper may be as far.
 func validFar(far int) bool {
 	return far >= 0 && far <= MaxPlace
+}
+
+// inOrderUpTo reports whether each place of a list is in 0..last, and none less than the one ahead of it.
+func inOrderUpTo(list []int, last int) bool {
+	ahead := 0
+	for _, place := range list {
+		if place < ahead || place > last {
+			return false
+		}
+		ahead = place
+	}
+	return true
 }
 
 // distance returns how far two places are from each other.
